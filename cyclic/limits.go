@@ -1,0 +1,9 @@
+package cyclic
+
+const (
+	maxText   = 400 // bytes of a task set
+	maxTasks  = 6
+	maxPairs  = 6
+	maxTime   = 60 // of a period, and of a cycle
+	maxDigits = 4  // of a number
+)
