@@ -100,6 +100,19 @@ func makeTexts(count int) []string {
 	return texts
 }
 
+// makeTables makes texts of tables, right and wrong ones, and packed tables,
+// right ones and ones with some bytes changed.
+func makeTables(t *testing.T, count int) []string {
+	m := newMaker()
+	var texts []string
+	for range count {
+		text := makeTable(m)
+		packed := mustWrite(t, text)
+		texts = append(texts, text, spoil(m, text), packed, spoil(m, packed))
+	}
+	return texts
+}
+
 func print3(text string) judged {
 	out, errno, place := cyclic.Print(text)
 	return judged{out, errno, place}
@@ -181,6 +194,7 @@ func TestNoCallPanics(t *testing.T) {
 	numbers := []int{math.MinInt, -1, 0, 1, 400, 401, math.MaxInt}
 	lists := [][]int{nil, {}, {0}, {-1, 3}, {401}, make([]int, 40), make([]int, 41), numbers}
 	texts := append(makeTexts(2000), "", strings.Repeat("task", 1<<18), strings.Repeat("\xff", 801))
+	texts = append(texts, makeTables(t, 500)...)
 	for i, text := range texts {
 		for _, answer := range callAll(text, numbers[i%len(numbers)], lists[i%len(lists)]) {
 			if answer.errno != cyclic.OK && answer.text != "" {
@@ -200,7 +214,7 @@ func TestListsAreLeftAlone(t *testing.T) {
 }
 
 func TestNothingIsKept(t *testing.T) {
-	texts := makeTexts(400)
+	texts := append(makeTexts(400), makeTables(t, 100)...)
 	first := make([][]judged, len(texts))
 	for i, text := range texts {
 		first[i] = callAll(text, i, []int{i})

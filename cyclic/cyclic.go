@@ -19,14 +19,20 @@ const (
 
 // Print writes a task set in one way (P3, P4).
 func Print(set string) (string, Errno, int) {
-	return guard(func() string { return readSet(set).text() })
+	return guard(ErrForm, func() string { return readSet(set).text() })
 }
 
 // Write packs the text of a table (P5, P6).
-func Write(text string) (string, Errno) { return "", OK }
+func Write(text string) (string, Errno) {
+	packed, errno, _ := guard(ErrTable, func() string { return readTable(text).pack() })
+	return packed, errno
+}
 
 // Read unpacks a table into its text (P6, P7).
-func Read(table string) (string, Errno) { return "", OK }
+func Read(table string) (string, Errno) {
+	text, errno, _ := guard(ErrTable, func() string { return unpack(table).text() })
+	return text, errno
+}
 
 // Compile plans a task set (P8, P9).
 func Compile(set string) (string, Errno, int) { return "", OK, 0 }

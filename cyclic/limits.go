@@ -2,6 +2,7 @@ package cyclic
 
 const (
 	maxText   = 400 // bytes of a task set
+	maxTable  = 800 // bytes of a table's text
 	maxTasks  = 6
 	maxPairs  = 6
 	maxTime   = 60 // of a period, and of a cycle

@@ -12,21 +12,22 @@ func refuse(errno Errno, place int) {
 }
 
 // guard is the face's side of refuse: no panic goes past it, and with an
-// error nothing of a half-made answer is left.
-func guard(work func() string) (answer string, errno Errno, place int) {
+// error nothing of a half-made answer is left. The call's own error stands in
+// for a reason that no reader told.
+func guard(own Errno, work func() string) (answer string, errno Errno, place int) {
 	defer func() {
 		if thrown := recover(); thrown != nil {
-			why := reasonOf(thrown)
+			why := reasonOf(thrown, own)
 			answer, errno, place = "", why.errno, why.place
 		}
 	}()
 	return work(), OK, 0
 }
 
-func reasonOf(thrown any) refusal {
+func reasonOf(thrown any, own Errno) refusal {
 	if why, ok := thrown.(refusal); ok {
 		return why
 	}
 	// Nothing else is thrown on purpose; but a call must not panic (P1).
-	return refusal{ErrForm, 0}
+	return refusal{own, 0}
 }

@@ -47,7 +47,7 @@ func readSet(text string) taskSet {
 }
 
 func parseSet(text string) taskSet {
-	r := newReader(text)
+	r := newReader(text, ErrForm)
 	set := taskSet{tasks: []task{r.takeTask()}}
 	// Behind the last task or pair that may stand there the next one's first
 	// word is left where it is, and refused as any other token.

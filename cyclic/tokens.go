@@ -22,12 +22,13 @@ type token struct {
 // reader looks just one token ahead, so that what is no token is not found
 // before all tokens ahead of it have been taken.
 type reader struct {
-	text string
-	next token
+	text  string
+	wrong Errno // what it refuses with: task sets and tables share the tokens
+	next  token
 }
 
-func newReader(text string) *reader {
-	r := &reader{text: text}
+func newReader(text string, wrong Errno) *reader {
+	r := &reader{text: text, wrong: wrong}
 	r.next = r.tokenFrom(0)
 	return r
 }
@@ -46,7 +47,7 @@ func (r *reader) tokenFrom(place int) token {
 	}
 	// A number with too many digits comes here too: it is no token, not two.
 	if !isSign(rest[0]) {
-		refuse(ErrForm, place)
+		refuse(r.wrong, place)
 	}
 	return token{signToken, rest[:1], place}
 }
@@ -87,14 +88,18 @@ func (r *reader) takeNumber() number {
 	return number{value, taken.place}
 }
 
+func (r *reader) seesEnd() bool {
+	return r.next.kind == endToken
+}
+
 func (r *reader) takeEnd() {
-	if r.next.kind != endToken {
+	if !r.seesEnd() {
 		r.refuseNext()
 	}
 }
 
 func (r *reader) refuseNext() {
-	refuse(ErrForm, r.next.place)
+	refuse(r.wrong, r.next.place)
 }
 
 func countLeading(text string, belongs func(byte) bool) int {
