@@ -38,4 +38,11 @@ func Read(table string) (string, Errno) {
 func Compile(set string) (string, Errno, int) { return "", OK, 0 }
 
 // Run runs a table (P10 to P12).
-func Run(table string, ticks int, costs []int) (string, Errno) { return "", OK }
+func Run(table string, ticks int, costs []int) (string, Errno) {
+	trace, errno, _ := guard(ErrTable, func() string {
+		t := unpack(table)
+		checkTicks(ticks, costs)
+		return t.run(ticks, costs)
+	})
+	return trace, errno
+}

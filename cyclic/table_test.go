@@ -201,8 +201,9 @@ func TestLongTextsCostNothing(t *testing.T) {
 			_, printed, _ := cyclic.Print(text)
 			_, written := cyclic.Write(text)
 			_, read := cyclic.Read(text)
-			if printed != cyclic.ErrLong || written != cyclic.ErrTable || read != cyclic.ErrTable {
-				t.Fatalf("P1: a long text is answered with %d, %d, %d", printed, written, read)
+			_, run := cyclic.Run(text, 4, nil)
+			if printed != cyclic.ErrLong || written != cyclic.ErrTable || read != cyclic.ErrTable || run != cyclic.ErrTable {
+				t.Fatalf("P1: a long text is answered with %d, %d, %d, %d", printed, written, read, run)
 			}
 			if time.Since(start) > 5*time.Second {
 				t.Fatal("P1: long texts are gone through")
