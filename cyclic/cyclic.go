@@ -35,7 +35,9 @@ func Read(table string) (string, Errno) {
 }
 
 // Compile plans a task set (P8, P9).
-func Compile(set string) (string, Errno, int) { return "", OK, 0 }
+func Compile(set string) (string, Errno, int) {
+	return guard(ErrForm, func() string { return readSet(set).compile().pack() })
+}
 
 // Run runs a table (P10 to P12).
 func Run(table string, ticks int, costs []int) (string, Errno) {

@@ -18,6 +18,11 @@ type judged struct {
 	place int
 }
 
+// String is for what a failed test tells: packed tables are no text.
+func (j judged) String() string {
+	return strconv.Quote(j.text) + ", " + strconv.Itoa(int(j.errno)) + ", " + strconv.Itoa(j.place)
+}
+
 type piece struct {
 	kind  byte // a letter of the patterns below; ? is no token
 	text  string

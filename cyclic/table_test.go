@@ -199,11 +199,12 @@ func TestLongTextsCostNothing(t *testing.T) {
 	for _, text := range texts {
 		for range 200 {
 			_, printed, _ := cyclic.Print(text)
+			_, compiled, _ := cyclic.Compile(text)
 			_, written := cyclic.Write(text)
 			_, read := cyclic.Read(text)
 			_, run := cyclic.Run(text, 4, nil)
-			if printed != cyclic.ErrLong || written != cyclic.ErrTable || read != cyclic.ErrTable || run != cyclic.ErrTable {
-				t.Fatalf("P1: a long text is answered with %d, %d, %d, %d", printed, written, read, run)
+			if printed != cyclic.ErrLong || compiled != cyclic.ErrLong || written != cyclic.ErrTable || read != cyclic.ErrTable || run != cyclic.ErrTable {
+				t.Fatalf("P1: a long text is answered with %d, %d, %d, %d, %d", printed, compiled, written, read, run)
 			}
 			if time.Since(start) > 5*time.Second {
 				t.Fatal("P1: long texts are gone through")
